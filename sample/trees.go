@@ -84,3 +84,51 @@ func bits(pick func(int) int) api.Node {
 	}
 	return tree.Prim(api.Universal, api.TagBits, append([]byte{byte(unused)}, b...))
 }
+
+// Turned is a tree with one of its nodes turned in some way; what comes out may be no tree that may be.
+func Turned(pick func(int) int, t api.Node) api.Node {
+	t = tree.Copy(t)
+	count, _ := tree.Count(t)
+	at := pick(count)
+	turn(pick, &t, &at)
+	return t
+}
+
+// turn turns the node of a number, counted from a node on.
+func turn(pick func(int) int, t *api.Node, at *int) {
+	if *at == 0 {
+		change(pick, t)
+	}
+	*at--
+	for i := 0; i < len(t.Kids) && *at >= 0; i++ {
+		turn(pick, &t.Kids[i], at)
+	}
+}
+
+// change changes one thing of a node by itself.
+func change(pick func(int) int, t *api.Node) {
+	kids, size := len(t.Kids), len(t.Bytes)
+	switch what := pick(12); {
+	case what == 0:
+		t.Tag = pick(31)
+	case what == 1:
+		t.Class = pick(4)
+	case what == 2:
+		t.Cons = !t.Cons
+	case what == 3:
+		t.Bytes = append(t.Bytes, byte(pick(256)))
+	case what == 4:
+		t.Kids = append(t.Kids, leaf(pick))
+	case what < 8 && kids > 0:
+		i := pick(kids)
+		t.Kids = append(t.Kids[:i:i], t.Kids[i+1:]...)
+	case what < 10 && kids > 0:
+		t.Kids = append(t.Kids, tree.Copy(t.Kids[pick(kids)]))
+	case kids > 1:
+		t.Kids[0], t.Kids[kids-1] = t.Kids[kids-1], t.Kids[0]
+	case what < 7 && size > 0:
+		t.Bytes = t.Bytes[:size-1]
+	case size > 0:
+		t.Bytes[pick(size)] ^= 1 << pick(8)
+	}
+}
