@@ -1,0 +1,46 @@
+package sample
+
+import (
+	"bytes"
+
+	"postmark/api"
+	"postmark/oid"
+	"postmark/tree"
+)
+
+// Other is an attribute of an identifier that nobody knows, with a number as its value; those of greater numbers stand behind those of lesser ones.
+func Other(n byte) api.Node {
+	return tree.Cons(api.Universal, api.TagSeq,
+		tree.Prim(api.Universal, api.TagOid, []byte{0x2a, n & 127}),
+		tree.Cons(api.Universal, api.TagSet, tree.Int(int64(n))))
+}
+
+// ID is a certificate's sign that may be, of no certificate.
+func ID() api.CertID {
+	return api.CertID{Hash: api.Sha256, Digest: bytes.Repeat([]byte{9}, 32), Issuer: Name("the issuer"), Serial: []byte{0x12, 0x34}}
+}
+
+// Attrs are attributes that may be.
+func Attrs() api.Attrs {
+	return api.Attrs{
+		Type:   oid.Named("data"),
+		Digest: bytes.Repeat([]byte{7}, 32),
+		Cert:   ID(),
+		Time:   951782400000,
+		Others: []api.Node{Other(3), Other(5)},
+	}
+}
+
+// Signer is one that may be, who did not sign yet.
+func Signer() api.Signer {
+	return api.Signer{
+		Issuer:   Name("the issuer"),
+		Serial:   []byte{0x12, 0x34},
+		Hash:     api.Sha256,
+		Null:     true,
+		Attrs:    Attrs(),
+		Way:      api.Pss,
+		Sig:      []byte{4, 5, 6},
+		Unsigned: []api.Node{Other(7), Other(9)},
+	}
+}
