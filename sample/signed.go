@@ -44,3 +44,13 @@ func Signer() api.Signer {
 		Unsigned: []api.Node{Other(7), Other(9)},
 	}
 }
+
+// Cms is signed data that may be, which nobody signed yet.
+func Cms() api.Cms {
+	return api.Cms{
+		Type:    oid.Named("data"),
+		Content: []byte("a content"),
+		Certs:   []api.Node{tree.Cons(api.Universal, api.TagSeq, tree.Int(1)), tree.Cons(api.Universal, api.TagSeq, tree.Int(2))},
+		Signer:  Signer(),
+	}
+}
