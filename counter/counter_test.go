@@ -202,7 +202,7 @@ func TestAddWrong(t *testing.T) {
 		}
 	}
 	// A countersignature that lies one node deeper than may be, once it is within another signer.
-	deepest.Unsigned = []api.Node{seq(prim(6, 0x2a, 1), set(seq(seq(deep))))}
+	deepest.Unsigned = []api.Node{seq(prim(6, 0x2a, 1), set(seq(deep)))}
 	if _, e := counter.Add(short, deepest); e != api.ErrSigner {
 		t.Error(e)
 	}

@@ -54,3 +54,8 @@ func Cms() api.Cms {
 		Signer:  Signer(),
 	}
 }
+
+// Query is one that may be, of a content's hash, which asks for nothing else.
+func Query() api.Query {
+	return api.Query{Imprint: api.Imprint{Hash: api.Sha256, Null: true, Digest: bytes.Repeat([]byte{0xab}, 32)}}
+}
