@@ -59,3 +59,24 @@ func Cms() api.Cms {
 func Query() api.Query {
 	return api.Query{Imprint: api.Imprint{Hash: api.Sha256, Null: true, Digest: bytes.Repeat([]byte{0xab}, 32)}}
 }
+
+// Tst is a stamp that may be, in which everything stands that may.
+func Tst() api.Tst {
+	return api.Tst{
+		Policy:   []byte{0x2a, 3},
+		Imprint:  Query().Imprint,
+		Serial:   []byte{0, 200},
+		Time:     951782400500,
+		Exact:    true,
+		Accuracy: api.Accuracy{Seconds: 1, Micros: 500},
+		Ordering: true,
+		Nonce:    []byte{0, 129},
+		Tsa:      []api.Node{tree.Cons(api.Context, 4, tree.Int(5))},
+		Exts:     []api.Ext{{Oid: []byte{0x2a, 9}, Value: []byte{1}}, {Oid: []byte{0x2a, 8}, Critical: true}},
+	}
+}
+
+// Seal is one by a key, with its sample certificate.
+func Seal(k api.Key) api.Seal {
+	return api.Seal{Cert: Cert(k), Hash: api.Sha256, Way: api.Pss, Key: k, With: true}
+}
