@@ -80,3 +80,16 @@ func Tst() api.Tst {
 func Seal(k api.Key) api.Seal {
 	return api.Seal{Cert: Cert(k), Hash: api.Sha256, Way: api.Pss, Key: k, With: true}
 }
+
+// Office is one by a key, whose first serial is 41: it takes two policies, and all hashes but one.
+func Office(k api.Key) api.Office {
+	return api.Office{
+		Seal:     Seal(k),
+		Policies: [][]byte{{0x2a, 3}, {0x2a, 4}},
+		Hashes:   []api.Hash{api.Sha256, api.Sha384, api.Sha512},
+		Exact:    true,
+		Accuracy: api.Accuracy{Seconds: 1, Millis: 500},
+		Ordering: true,
+		First:    41,
+	}
+}
