@@ -64,7 +64,7 @@ func TestID(t *testing.T) {
 	}
 	for i, turn := range []func(x *api.CertID){
 		func(x *api.CertID) { *x = api.CertID{} }, func(x *api.CertID) { x.Hash = 0 }, func(x *api.CertID) { x.Hash = 5 }, func(x *api.CertID) { x.Digest = x.Digest[1:] }, func(x *api.CertID) { x.Digest = append(x.Digest, 1) }, func(x *api.CertID) { x.Digest = nil }, func(x *api.CertID) { x.Hash = api.Sha224 },
-		func(x *api.CertID) { x.Issuer = nil }, func(x *api.CertID) { x.Issuer = api.Name{{Kind: 4, Text: "a"}} }, func(x *api.CertID) { x.Serial = nil }, func(x *api.CertID) { x.Serial = []byte{0} }, func(x *api.CertID) { x.Serial = []byte{200} }, func(x *api.CertID) { x.Serial = []byte{0, 1} }, func(x *api.CertID) { x.Serial = bytes.Repeat([]byte{1}, 21) },
+		func(x *api.CertID) { x.Issuer = nil }, func(x *api.CertID) { x.Issuer = api.Name{{Kind: 4, Text: "a"}} }, func(x *api.CertID) { x.Serial = nil }, func(x *api.CertID) { x.Serial = []byte{0} }, func(x *api.CertID) { x.Serial = []byte{200} }, func(x *api.CertID) { x.Serial = []byte{128} }, func(x *api.CertID) { x.Serial = []byte{0, 1} }, func(x *api.CertID) { x.Serial = bytes.Repeat([]byte{1}, 21) },
 	} {
 		x := sample.ID()
 		turn(&x)
@@ -139,7 +139,7 @@ func TestMayBe(t *testing.T) {
 		turn func(a *api.Attrs)
 		e    api.Errno
 	}{
-		{func(a *api.Attrs) {}, api.OK}, {func(a *api.Attrs) { a.Type = nil }, api.OK}, {func(a *api.Attrs) { a.Type = []byte{0x80} }, api.ErrAttr}, {func(a *api.Attrs) { a.Type = []byte{0x2a, 0x80, 1} }, api.ErrAttr}, {func(a *api.Attrs) { a.Type = bytes.Repeat([]byte{1}, 30) }, api.OK},
+		{func(a *api.Attrs) {}, api.OK}, {func(a *api.Attrs) { a.Type = nil }, api.OK}, {func(a *api.Attrs) { a.Type = []byte{1} }, api.OK}, {func(a *api.Attrs) { a.Type = []byte{0x80} }, api.ErrAttr}, {func(a *api.Attrs) { a.Type = []byte{0x2a, 0x80, 1} }, api.ErrAttr}, {func(a *api.Attrs) { a.Type = bytes.Repeat([]byte{1}, 30) }, api.OK},
 		{func(a *api.Attrs) { a.Digest = nil }, api.ErrAttr}, {func(a *api.Attrs) { a.Digest = []byte{0} }, api.OK}, {func(a *api.Attrs) { a.Digest = make([]byte, 64) }, api.OK}, {func(a *api.Attrs) { a.Digest = make([]byte, 65) }, api.ErrAttr},
 		{func(a *api.Attrs) { a.Cert = api.CertID{} }, api.OK}, {func(a *api.Attrs) { a.Cert = api.CertID{Serial: []byte{1}} }, api.ErrAttr}, {func(a *api.Attrs) { a.Cert = api.CertID{Digest: []byte{1}} }, api.ErrAttr}, {func(a *api.Attrs) { a.Cert = api.CertID{Issuer: sample.Name("a")} }, api.ErrAttr}, {func(a *api.Attrs) { a.Cert = api.CertID{Hash: api.Sha256} }, api.ErrAttr}, {func(a *api.Attrs) { a.Cert.Digest = a.Cert.Digest[1:] }, api.ErrAttr},
 		{func(a *api.Attrs) { a.Time = api.NoTime }, api.OK}, {func(a *api.Attrs) { a.Time = 0 }, api.OK}, {func(a *api.Attrs) { a.Time = 1 }, api.ErrAttr}, {func(a *api.Attrs) { a.Time = -2 }, api.ErrAttr}, {func(a *api.Attrs) { a.Time = -1000 }, api.ErrAttr}, {func(a *api.Attrs) { a.Time = api.MaxTime }, api.ErrAttr}, {func(a *api.Attrs) { a.Time = api.MaxTime - 999 }, api.OK}, {func(a *api.Attrs) { a.Time = api.MaxTime + 1 }, api.ErrAttr}, {func(a *api.Attrs) { a.Time = math.MinInt64 }, api.ErrAttr},

@@ -255,6 +255,16 @@ func TestNormalExamples(t *testing.T) {
 	}
 }
 
+// TestWithin: what lies within an element does not pass its end, nor the end of all.
+func TestWithin(t *testing.T) {
+	for _, s := range []string{"30030482000161", "300404820001616161", "3002048161", "30040403616161", "a003308002010500000000", "3003308005000000", "30810330820000", "0482", "048200", "048300", "308204"} {
+		b, _ := hex.DecodeString(s)
+		if x, n, e := ber.First(b[:len(b):len(b)]); e != api.ErrBer || n != 0 || !tree.Same(x, api.Node{}) {
+			t.Error(s, x, n, e)
+		}
+	}
+}
+
 // is says whether a tree's DER is these digits.
 func is(t api.Node, digits string) bool {
 	b, e := der.Encode(t)

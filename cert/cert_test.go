@@ -282,6 +282,42 @@ func TestBuildAndRead(t *testing.T) {
 	}
 }
 
+// TestPart holds the signed part against one that is put together by hand.
+func TestPart(t *testing.T) {
+	seq := func(kids ...api.Node) api.Node { return tree.Cons(api.Universal, api.TagSeq, kids...) }
+	prim := func(tag int, s string) api.Node { return tree.Prim(api.Universal, tag, []byte(s)) }
+	named := func(name string) api.Node { return tree.Prim(api.Universal, api.TagOid, oid.Named(name)) }
+	c := sample.Cert(sample.Small())
+	c.Way, c.From, c.To = api.Pss, 951782400000, 2524608000000
+	c.Key = api.Key{N: []byte{128, 1}, E: []byte{127}}
+	c.Exts = []api.Ext{{Oid: []byte{0x2a, 9}, Value: []byte{1}}, {Oid: []byte{0x2a, 8}, Critical: true}}
+	alg, _ := cert.SignAlg(api.Pss, api.Sha256)
+	issuer, _ := cert.BuildName(c.Issuer)
+	subject, _ := cert.BuildName(c.Subject)
+	key := seq(seq(named("rsa"), prim(5, "")), prim(3, "\x00\x30\x08\x02\x03\x00\x80\x01\x02\x01\x7f"))
+	times := seq(prim(23, "000229000000Z"), prim(24, "20500101000000Z"))
+	exts := tree.Cons(api.Context, 3, seq(seq(prim(6, "\x2a\x09"), prim(4, "\x01")), seq(prim(6, "\x2a\x08"), prim(1, "\xff"), prim(4, ""))))
+	want := seq(tree.Cons(api.Context, 0, tree.Int(2)), prim(2, "\x12\x34"), alg, issuer, times, subject, key, exts)
+	if got, e := cert.Part(c); e != api.OK || !tree.Same(got, want) {
+		t.Error(digits(got), e)
+	}
+	c.Exts = nil
+	want.Kids = want.Kids[:7]
+	got, e := cert.Part(c)
+	if e != api.OK || !tree.Same(got, want) {
+		t.Error(digits(got), e)
+	}
+	whole, e := cert.Build(c)
+	if e != api.OK || !tree.Same(whole, seq(want, alg, prim(3, "\x00\x01\x02\x03"))) {
+		t.Error(digits(whole), e)
+	}
+	c.Key = api.Key{N: []byte{128}, E: []byte{255, 0}}
+	want.Kids[6].Kids[1] = prim(3, "\x00\x30\x09\x02\x02\x00\x80\x02\x03\x00\xff\x00")
+	if got, e := cert.Part(c); e != api.OK || !tree.Same(got, want) {
+		t.Error(digits(got), e)
+	}
+}
+
 // TestMayBe goes through what keeps a certificate from being.
 func TestMayBe(t *testing.T) {
 	exts := func(n int) []api.Ext {

@@ -79,6 +79,9 @@ func TestLines(t *testing.T) {
 		t.Error("a line that is none does something")
 	}
 	says(t, c, "desk", "desk open 41 0")
+	if console.MaxLine != 4000 {
+		t.Error(console.MaxLine)
+	}
 	says(t, c, "who "+long, "ok")
 	if got := c.Office().Seal.Cert.Subject[0].Text; got != long {
 		t.Error(len(got))

@@ -94,7 +94,7 @@ func TestCheck(t *testing.T) {
 			o.Seal = sample.Seal(sample.Large())
 			o.Seal.Hash = api.Sha512
 		}, true},
-		{func(o *api.Office) { o.Policies = nil }, false}, {func(o *api.Office) { o.Policies = [][]byte{{0x80}} }, false}, {func(o *api.Office) { o.Policies = append(o.Policies, nil) }, false}, {func(o *api.Office) { o.Policies = [][]byte{{1}, {1}, {1}, {1}, {1}, {1}, {1}, {1}, {1}, {1}} }, true}, {func(o *api.Office) { o.Policies = [][]byte{{1}, {1}, {1}, {1}, {1}, {1}, {1}, {1}, {1}, {1}, {1}} }, false},
+		{func(o *api.Office) { o.Policies = nil }, false}, {func(o *api.Office) { o.Policies, o.Hashes = o.Policies[:1], o.Hashes[:1] }, true}, {func(o *api.Office) { o.Policies = [][]byte{{0x80}} }, false}, {func(o *api.Office) { o.Policies = append(o.Policies, nil) }, false}, {func(o *api.Office) { o.Policies = [][]byte{{1}, {1}, {1}, {1}, {1}, {1}, {1}, {1}, {1}, {1}} }, true}, {func(o *api.Office) { o.Policies = [][]byte{{1}, {1}, {1}, {1}, {1}, {1}, {1}, {1}, {1}, {1}, {1}} }, false},
 		{func(o *api.Office) { o.Hashes = nil }, false}, {func(o *api.Office) { o.Hashes = []api.Hash{1, 1, 1, 4} }, true}, {func(o *api.Office) { o.Hashes = []api.Hash{1, 2, 3, 4, 4} }, false}, {func(o *api.Office) { o.Hashes = []api.Hash{1, 0} }, false}, {func(o *api.Office) { o.Hashes = []api.Hash{5} }, false},
 		{func(o *api.Office) { o.Exact = false }, false}, {func(o *api.Office) { o.Accuracy = api.Accuracy{} }, false}, {func(o *api.Office) { o.Exact, o.Accuracy = false, api.Accuracy{} }, true}, {func(o *api.Office) { o.Accuracy.Millis = 1000 }, false}, {func(o *api.Office) { o.Accuracy = api.Accuracy{Micros: -1} }, false}, {func(o *api.Office) { o.Ordering = false }, true},
 		{func(o *api.Office) { o.First = -1 }, false}, {func(o *api.Office) { o.First = math.MinInt64 }, false}, {func(o *api.Office) { o.First = 0 }, true}, {func(o *api.Office) { o.First = api.MaxSerial }, true},
@@ -258,6 +258,29 @@ func TestFullAndNoSerial(t *testing.T) {
 		t.Errorf("%x", b)
 	}
 	last(t, x, api.MaxSerial, 5000, true)
+}
+
+// TestLongest: where a token, or its reply, would be longer than may be, the system's failure is answered.
+func TestLongest(t *testing.T) {
+	o := sample.Office(sample.Small())
+	good := request(t, sample.Query())
+	granted, failed := 0, 0
+	for size := 65536 - 900; size < 65536; size += 3 {
+		o.Policies = [][]byte{bytes.Repeat([]byte{1}, size)}
+		b := opened(t, o, fresh(t, 9)).Ask(good, 5000, salt)
+		r, e := reply.Open(b)
+		switch {
+		case e == api.OK && r.Status == api.StatusGranted && failed == 0:
+			granted++
+		case bytes.Equal(b, refusal(api.FailSystem)):
+			failed++
+		default:
+			t.Fatal(size, e)
+		}
+	}
+	if granted == 0 || failed == 0 {
+		t.Error(granted, failed)
+	}
 }
 
 func TestRecover(t *testing.T) {

@@ -196,6 +196,30 @@ func TestArm(t *testing.T) {
 	}
 }
 
+// TestCopy writes to a disk and to its copy by turns.
+func TestCopy(t *testing.T) {
+	d, _ := disk.New(4, 9)
+	for range 3 {
+		d.Write(3, sector(9))
+	}
+	d.Arm(4, []byte{64, 64, 64, 64, 64})
+	c := d.Copy()
+	for i, x := range []*disk.Disk{d, c, d, c} {
+		x.Write(i%2, sector(byte(i+1)))
+	}
+	for i, x := range []*disk.Disk{d, c} {
+		if b, _ := x.Read(i); !bytes.Equal(b, sector(byte(i+3))) || x.Waits() != 5 || x.Room() != 4 {
+			t.Error(i, b, x.Waits())
+		}
+		if b, _ := x.Read(1 - i); !bytes.Equal(b, sector(0)) {
+			t.Error(i, b)
+		}
+	}
+	if !d.Up() || d.Write(2, sector(1)) != api.OK || d.Flush() != api.ErrDown || !c.Up() || c.Crash(nil) != api.OK {
+		t.Error("arms of a disk and its copy")
+	}
+}
+
 func TestNone(t *testing.T) {
 	var none *disk.Disk
 	for i, d := range []*disk.Disk{none, {}} {

@@ -204,7 +204,7 @@ func TestTheGreatest(t *testing.T) {
 	}{
 		{nat.Of(3), 33, nat.Shl, api.Nat{0, 6}, api.OK}, {api.Nat{0, 6}, 34, nat.Shr, api.Nat{1}, api.OK},
 		{nat.Of(1), 8192, nat.Shl, nil, api.ErrNat}, {nat.Of(1), 8191, nat.Shl, append(make(api.Nat, 255), 1<<31), api.OK}, {nat.Of(3), 8191, nat.Shl, nil, api.ErrNat}, {nat.Of(3), math.MaxInt, nat.Shl, nil, api.ErrNat},
-		{nil, math.MaxInt, nat.Shl, nil, api.OK}, {api.Nat{0}, 8192, nat.Shl, nil, api.OK}, {nat.Of(1), -1, nat.Shl, nil, api.ErrArg}, {beyond, -1, nat.Shl, nil, api.ErrArg}, {beyond, 0, nat.Shl, nil, api.ErrNat}, {top, 0, nat.Shl, top, api.OK}, {top, 1, nat.Shl, nil, api.ErrNat},
+		{nil, math.MaxInt, nat.Shl, nil, api.OK}, {api.Nat{0}, 8192, nat.Shl, nil, api.OK}, {nat.Of(1), -1, nat.Shl, nil, api.ErrArg}, {beyond, -1, nat.Shl, nil, api.ErrArg}, {beyond, 0, nat.Shl, nil, api.ErrNat}, {top, 0, nat.Shl, top, api.OK}, {top, 1, nat.Shl, nil, api.ErrNat}, {long, 0, nat.Shl, top, api.OK}, {append(nat.Of(1), make(api.Nat, 300)...), 3, nat.Shl, nat.Of(8), api.OK},
 		{nat.Of(1), -1, nat.Shr, nil, api.ErrArg}, {beyond, math.MinInt, nat.Shr, nil, api.ErrArg}, {beyond, 1, nat.Shr, nil, api.ErrNat}, {beyond, 9000, nat.Shr, nil, api.ErrNat}, {top, math.MaxInt, nat.Shr, nil, api.OK}, {top, 8191, nat.Shr, api.Nat{1}, api.OK}, {top, 8192, nat.Shr, nil, api.OK}, {long, 0, nat.Shr, top, api.OK},
 	} {
 		if l, e := x.do(x.x, x.n); e != x.e || !slices.Equal(l, x.want) {

@@ -107,6 +107,12 @@ func TestHalves(t *testing.T) {
 			}
 		}
 	}
+	// Of a Mersenne prime 2 comes round after 521 times, and others do not: it is 2 that is asked.
+	round := mersenne(521)
+	round.E, round.D = []byte{3}, []byte{174}
+	if !rsa.Halves(round) {
+		t.Error("2 comes round")
+	}
 	if rsa.Halves(api.Key{}) || rsa.Halves(ofBits(256)) {
 		t.Error("halves of none")
 	}

@@ -221,7 +221,7 @@ func TestContents(t *testing.T) {
 
 // TestDates asks for each day of some years in both kinds of times.
 func TestDates(t *testing.T) {
-	for _, year := range []string{"1999", "2000", "2023", "2024", "1900", "2400", "2100"} {
+	for _, year := range []string{"1999", "2000", "2023", "2024", "1900", "2400", "2100", "1996", "1904", "2012", "1950", "2049", "0004", "9999"} {
 		for month := range 14 {
 			for day := range 33 {
 				s := year + two(month) + two(day) + "123456"
