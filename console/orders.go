@@ -58,7 +58,7 @@ func (c *Console) ofOffice(word string) (order, bool) {
 	case "first":
 		return sets(c.setFirst, number), true
 	case "clear":
-		return sets(c.clear), true
+		return sets(c.clearOffice), true
 	}
 	return order{}, false
 }
@@ -102,7 +102,7 @@ func (c *Console) ofDisk(word string) (order, bool) {
 	case "boot":
 		return tries(c.boot), true
 	case "recover":
-		return tries(c.recover), true
+		return tries(c.reopen), true
 	case "desk":
 		return tells(c.tellDesk), true
 	case "last":
@@ -159,7 +159,7 @@ func (c *Console) setOrdering(l []value) { c.office.Ordering = l[0].yes }
 
 func (c *Console) setFirst(l []value) { c.office.First = l[0].number }
 
-func (c *Console) clear([]value) { c.office = blank() }
+func (c *Console) clearOffice([]value) { c.office = blank() }
 
 func (c *Console) setQuery(l []value) {
 	c.query = api.Query{Imprint: api.Imprint{Hash: l[0].hash, Null: true, Digest: l[1].bytes}}
@@ -260,7 +260,7 @@ func (c *Console) arm(l []value) api.Errno { return c.disk.Arm(int(l[0].number),
 
 func (c *Console) boot([]value) api.Errno { return c.disk.Boot() }
 
-func (c *Console) recover([]value) api.Errno { return c.desk.Recover() }
+func (c *Console) reopen([]value) api.Errno { return c.desk.Recover() }
 
 func (c *Console) tellDesk([]value) string {
 	if c.desk == nil {
