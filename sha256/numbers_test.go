@@ -140,3 +140,17 @@ func TestNumbersAtOnce(t *testing.T) {
 		t.Error(wrong)
 	}
 }
+
+// TestMadeOnce changes what was made: the numbers that are told are those, and nobody makes them anew.
+func TestMadeOnce(t *testing.T) {
+	forget()
+	defer forget()
+	want, _ := Numbers(256)
+	fixed.starts[0]++
+	fixed.k[0]++
+	want[0]++
+	want[8]++
+	if l, e := Numbers(256); e != api.OK || !slices.Equal(l, want) {
+		t.Error(l, e)
+	}
+}
