@@ -140,7 +140,7 @@ func TestMemory(t *testing.T) {
 	}
 }
 
-// TestAtOnce makes hashes side by side: the numbers are made once, whoever comes first.
+// TestAtOnce makes hashes side by side.
 func TestAtOnce(t *testing.T) {
 	var all sync.WaitGroup
 	wrong := make([]bool, 8)
